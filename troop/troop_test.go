@@ -116,17 +116,8 @@ func madeTroop(d *dice, id, players int, c api.Cell) api.Troop {
 
 // with is w, in memory of its own, changed.
 func with(w api.World, change func(w *api.World)) api.World {
-	w = copied(w)
+	w = Copy(w)
 	change(&w)
-	return w
-}
-
-func copied(w api.World) api.World {
-	w.Field.Places = slices.Clone(w.Field.Places)
-	w.Bases = slices.Clone(w.Bases)
-	w.Stocks = slices.Clone(w.Stocks)
-	w.Mines = slices.Clone(w.Mines)
-	w.Troops = slices.Clone(w.Troops)
 	return w
 }
 
@@ -1019,5 +1010,29 @@ func TestWorldsAreNotKept(t *testing.T) {
 	}
 	if want := wantTold(asked{small(), 5, at(1, 1), 1}); !same(first, want) {
 		t.Errorf("of the world at first, later on: %v, want %v", first, want)
+	}
+}
+
+// What Copy answers, right or wrong, is the same, in memory of its own.
+func TestCopy(t *testing.T) {
+	for _, q := range questions() {
+		q = roomy(q)
+		old, want := whole(q), fmt.Sprint(q.w)
+		first, second := Copy(q.w), Copy(q.w)
+		if fmt.Sprint(first) != want {
+			t.Fatalf("Copy of %s = %s", brief(q.w), brief(first))
+		}
+		for _, l := range [][]int{first.Field.Places, first.Stocks, first.Mines} {
+			spoil(l)
+		}
+		for i := range first.Bases[:cap(first.Bases)] {
+			first.Bases[:cap(first.Bases)][i] = at(-7, -7)
+		}
+		for i := range first.Troops[:cap(first.Troops)] {
+			first.Troops[:cap(first.Troops)][i].Life = -7
+		}
+		if whole(q) != old || fmt.Sprint(second) != want {
+			t.Fatalf("a spoilt copy of %s left %s, and another one %s", brief(q.w), whole(q), brief(second))
+		}
 	}
 }
